@@ -148,10 +148,8 @@ func (b *builder) condition(c api.Cond, value map[string]string, open map[string
 // least returns a formula for a relation that depends on itself: a fixed point of its definition and those that belong to it.
 func (b *builder) least(name string, args []string, open map[string]bool) api.Formula {
 	system := b.system(name, open)
-	inner := maps.Clone(open)
-	if inner == nil {
-		inner = map[string]bool{}
-	}
+	inner := map[string]bool{}
+	maps.Copy(inner, open)
 	for _, n := range system {
 		inner[n] = true
 	}

@@ -35,13 +35,25 @@ func columned(f api.Formula, vars []string) bool {
 type measure struct {
 	most  int // ways in which a formula may hold, each of which needs a rule, before some of them get a name
 	width int // variables that a rule may have before some of its conditions get a name
+	rels  int // relations, with those of the formula, that are few enough not to try the next measure
 }
 
-// translate returns the program of the first measure whose relations fit into a structure, or else of the one with the fewest names.
+// measures lists the measures to try. Small rules are possible in larger structures, if these have room for the relations.
+func measures() []measure {
+	return []measure{
+		{16, 4, api.MaxRels - 2},
+		{16, 6, api.MaxRels},
+		{16, maxVars, api.MaxRels},
+		{1, 6, api.MaxRels},
+		{1, maxVars, api.MaxRels},
+	}
+}
+
+// translate returns the program of the first measure with few relations, or else of the one with the fewest names.
 func translate(f api.Formula, vars []string) ([]api.Rule, string, api.Errno) {
 	var best []api.Rule
 	result, count := "", 0
-	for _, m := range [...]measure{{16, 6}, {16, maxVars}, {1, 6}, {1, maxVars}} {
+	for _, m := range measures() {
 		l, name := newCollector(f, m).program(f, vars)
 		if len(l) == 0 || !Valid(l) {
 			continue
@@ -49,7 +61,7 @@ func translate(f api.Formula, vars []string) ([]api.Rule, string, api.Errno) {
 		if level, _ := levels(l); best == nil || len(level) < count {
 			best, result, count = l, name, len(level)
 		}
-		if count+len(formula.Symbols(f)) <= api.MaxRels {
+		if count+len(formula.Symbols(f)) <= m.rels {
 			break
 		}
 	}
