@@ -176,7 +176,7 @@ func limit(ways [][]literal) {
 
 func (c *collector) atom(f api.Formula, at scope) literal {
 	args := at.of(f.Args)
-	if r, bound := at.rels[f.Name]; bound && f.Kind == api.FRel {
+	if r, bound := at.rels[f.Name]; bound {
 		return r.has(args)
 	}
 	return literal{kind: f.Kind, name: f.Name, args: args}

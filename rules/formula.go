@@ -154,11 +154,11 @@ func (b *builder) least(name string, args []string, open map[string]bool) api.Fo
 		inner[n] = true
 	}
 	vars := different(args)
-	defs := []api.Def{{Name: name, Vars: vars, Body: b.cases(name, vars[:len(args)], inner)}}
+	defs := []api.Def{{Name: name, Vars: vars, Body: b.cases(name, vars, inner)}}
 	for _, n := range system[1:] {
 		arity, _ := defines(b.rules, n)
 		own := columns(max(arity, 1))
-		defs = append(defs, api.Def{Name: n, Vars: own, Body: b.cases(n, own[:arity], inner)})
+		defs = append(defs, api.Def{Name: n, Vars: own, Body: b.cases(n, own, inner)})
 	}
 	f, e := fix.One(defs, 0)
 	if e != api.OK {

@@ -209,6 +209,20 @@ func TestFormulaLimits(t *testing.T) {
 	}
 }
 
+// TestLargestFormula has a formula of as many formulas as there may be, and one more.
+func TestLargestFormula(t *testing.T) {
+	conds := func(n int) string { return strings.Repeat("E(), ", n-1) + "E()" }
+	for extra, want := range []api.Errno{api.OK, api.OK, api.ErrSize, api.ErrSize} {
+		// B needs 9 times 21 and 9, and 1 for all; A 20 times B and 1, the other conditions and 1, and 1 for both.
+		text := strings.Repeat("B() :- "+conds(20)+".", 9) + "B() :- " + conds(8) + "."
+		text += "A() :- " + strings.Repeat("B(), ", 19) + "B(). A() :- " + conds(16+extra) + "."
+		f, e := rules.Formula(program(t, text), "A")
+		if e != want || e == api.OK && formula.Size(f) != api.MaxNodes-1+extra || e != api.OK && !formula.Same(f, api.Formula{}) {
+			t.Errorf("with %d more conditions, Formula has size %d, error %d", extra, formula.Size(f), e)
+		}
+	}
+}
+
 // TestManyNames has more names that depend on each other than a system may have definitions. Run cannot have so many relations, so the formulas are compared with that of a shorter way.
 func TestManyNames(t *testing.T) {
 	for _, n := range []int{7, 8, 9, 10, 12} {

@@ -92,7 +92,9 @@ func TestFrom(t *testing.T) {
 		{"tc(x y: E(x y))(b a)", "a b", ""},
 		{"tc(x y: E(x y))(a a)", "a", ""},
 		{"tc(x y: E(y x))(x y)", "x y", ""},
-		{"tc(x y: or(E(x y), E(x a)))(b a)", "a b", ""},
+		{"tc(x y: or(E(x y), E(x a)))(b a)", "a b", "R1(v0 v0). R1(v0 v1) :- R1(v0 v2), E(v1 v2). R1(v0 v1) :- R1(v0 v2), E(v1 v0)."},
+		{"tc(x y: or(E(x y), E(x a)))(a b)", "a b", "R1(v0 v0). R1(v0 v1) :- R1(v0 v2), E(v2 v1). R1(v0 v1) :- R1(v0 v2), E(v2 v0)."},
+		{"tc(x y: E(x y))(b b)", "a b", "R1(v0 v0). R1(v0 v1) :- R1(v0 v2), E(v2 v1). R2(v0 v1) :- R1(v1 v1)."},
 		{"tc(x y: and(E(x y), E(a y), not(x = b)))(a b)", "a b", ""},
 		{"tc(x y u v: and(E(x u), E(v y)))(a b b a)", "a b", ""},
 		{"tc(x y u v: or(and(E(x u), y = v), and(x = v, y = u)))(a b a c)", "a b c", ""},
@@ -264,6 +266,18 @@ func TestFromLimits(t *testing.T) {
 	}
 }
 
+// TestManyColumns has conditions that are too many for a rule whose head has more variables than rules should have.
+func TestManyColumns(t *testing.T) {
+	m := newMaker(17)
+	s := api.Structure{Size: 2, Rels: []api.Rel{m.relation("U", 2, 1), m.relation("E", 2, 2), {Name: "Z"}}}
+	for _, n := range []int{20, 21, 40} {
+		f := parse(t, "and("+repeat(n, "E(x y)")+")")
+		if !checkFrom(t, f, words("x a b c y d e f"), s) {
+			t.Errorf("the program for %d conditions or its relations are too large", n)
+		}
+	}
+}
+
 // TestFromTooLarge has formulas that need too many rules or variables, some of them as large as a formula may be: that must soon be found.
 func TestFromTooLarge(t *testing.T) {
 	vars := strings.Join(numbered("z", 12), " ")
@@ -285,6 +299,8 @@ func TestFromTooLarge(t *testing.T) {
 		"and(" + repeat(200, "some("+vars+": and(A("+vars+"), E(z0 z1), E(x z2)))") + ")",
 		"some(" + vars + ": and(A(" + vars + "), " + repeat(12, "E(x z#)") + "))",
 		"some(" + vars + ": some(" + other + ": and(" + repeat(12, "E(z# y#)") + ", A(" + vars + "), A(" + other + "))))",
+		"or(E(x y), and(" + repeat(59, "some("+vars+": and(A("+vars+"), E(z0 z1), E(x z2)))") + "))",
+		"or(E(x y), and(" + repeat(200, "some("+vars+": and(A("+vars+"), E(z0 z1), E(x z2)))") + "))",
 		"tc(" + vars + " " + other + ": and(A(" + vars + "), A(" + other + ")))(" + strings.Repeat("x y ", 12) + ")",
 	} {
 		if l, name, e := rules.From(parse(t, text), words("x y")); e != api.ErrSize || len(l) > 0 || name != "" {

@@ -127,6 +127,33 @@ func TestLargeProofs(t *testing.T) {
 	}
 }
 
+// TestHugeProofs has tuples whose smallest proofs have more parts than an int can count.
+func TestHugeProofs(t *testing.T) {
+	l := program(t, "P(x) :- F(x). P(y) :- E(x y), P(x), P(x).")
+	s := path(64)
+	s.Rels = append(s.Rels, api.Rel{Name: "F", Arity: 1, Tuples: [][]int{{0}}})
+	if got := relation(t, run(t, l, s), "P"); len(got) != 64 {
+		t.Errorf("P has %v", got)
+	}
+	for i := range 64 {
+		p, e := rules.Why(l, s, "P", []int{i})
+		if want := i > 13; want != (e == api.ErrSize) || want == (e == api.OK) || want != (len(p.Values) == 0) {
+			t.Errorf("Why(P, %d) has size %d, error %d", i, size(p), e)
+		}
+	}
+}
+
+// TestProofMemory has proofs in which parts occur twice: they share no memory.
+func TestProofMemory(t *testing.T) {
+	l := program(t, "P(x) :- F(x). P(y) :- E(x y), P(x), P(x).")
+	s := path(4)
+	s.Rels = append(s.Rels, api.Rel{Name: "F", Arity: 1, Tuples: [][]int{{0}}})
+	p, e := rules.Why(l, s, "P", []int{3})
+	if e != api.OK || size(p) != 15 || !apart(p) {
+		t.Errorf("Why is %v, error %d", p, e)
+	}
+}
+
 // TestSmallProofs has tuples whose first proofs, by the number of rounds, are larger than later ones, or larger than the limit.
 func TestSmallProofs(t *testing.T) {
 	l := program(t, "P(x) :- F(x). P(y) :- E(x y), P(x), P(x). Q(x) :- F(x). Q(y) :- E(x y), Q(x). R(x) :- P(x). R(x) :- Q(y), Q(x), F(x), y = x. R(x) :- W(x). W(x) :- V(x). V(x) :- Q(x).")
@@ -182,6 +209,10 @@ func TestCheck(t *testing.T) {
 		if rules.Check(l, s, "P", tuple, two) {
 			t.Errorf("Check(P, %v, %v) is true", tuple, two)
 		}
+	}
+	loop := structure(t, "3; E/2 0,0")
+	if first := (api.Proof{Values: []int{0, 0}}); !rules.Check(l, loop, "P", []int{0, 0}, first) || rules.Check(l, loop, "P", []int{-1, 0}, first) || rules.Check(l, loop, "P", []int{0, 3}, first) {
+		t.Errorf("Check(%v) accepts other elements", first)
 	}
 	if rules.Check(l, structure(t, "3; E/2 0,1"), "P", tuple, two) || rules.Check(l, structure(t, "3; E/2 0,1 1,2; Q/0"), "P", tuple, two) || rules.Check(l[1:], s, "P", tuple, two) {
 		t.Errorf("Check(%v) is true for other structures", two)

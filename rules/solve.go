@@ -102,25 +102,18 @@ func (m *model) solve(level int) {
 		f.table.has[f.rank] = true
 		tuple, _ := shape.Tuple(m.size, f.table.arity, f.rank)
 		for _, j := range f.table.next {
-			if values, fits := j.begin(tuple); fits {
-				m.search(j, values, 0)
-			}
+			m.search(j, j.begin(tuple), 0)
 		}
 	}
 }
 
-// begin returns the values of the variables of start for which they are a tuple, if there are any.
-func (j *join) begin(tuple []int) ([]int, bool) {
+// begin returns values that are tuple for the variables of start. A variable that occurs there twice may have another value; then it is left to the conditions whether it is possible.
+func (j *join) begin(tuple []int) []int {
 	values := make([]int, j.rule.vars)
 	for i, v := range j.start {
 		values[v] = tuple[i]
 	}
-	for i, v := range j.start {
-		if values[v] != tuple[i] {
-			return nil, false
-		}
-	}
-	return values, true
+	return values
 }
 
 // search applies the rule of j with all values that agree with those of start and of the first variables of the order.
