@@ -105,7 +105,7 @@ func TestLargeFormulas(t *testing.T) {
 	m := newMaker(10)
 	names := words("A B C")
 	vars := words("x y z w")
-	for range 1000 {
+	for range 400 {
 		// The names are used in a circle, or only by those before them, with negations.
 		circle := m.Intn(2) == 0
 		var l []api.Rule
